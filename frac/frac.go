@@ -46,12 +46,12 @@ func Point(nums []int64, den int64) (api.Point, api.Errno) {
 
 // mayParts tells whether den and nums may be the parts of one fraction or point, however many nums there are.
 func mayParts(den int64, nums ...int64) bool {
-	return den >= 1 && within(api.MaxPart, den) && within(api.MaxPart, nums...) && divisor(den, nums...) == 1
+	return den >= 1 && Within(api.MaxPart, den) && Within(api.MaxPart, nums...) && divisor(den, nums...) == 1
 }
 
 // lowering answers the number that, divided out of den and of all nums, leaves lowest terms.
 func lowering(den int64, nums ...int64) (int64, api.Errno) {
-	if den == 0 || !within(maxGiven, den) || !within(maxGiven, nums...) {
+	if den == 0 || !Within(maxGiven, den) || !Within(maxGiven, nums...) {
 		return 0, api.ErrRange
 	}
 	if len(nums) > maxNums {
@@ -65,15 +65,15 @@ func lowering(den int64, nums ...int64) (int64, api.Errno) {
 		return 0, api.ErrSize
 	}
 	for _, n := range nums {
-		if !within(api.MaxPart, n/by) {
+		if !Within(api.MaxPart, n/by) {
 			return 0, api.ErrSize
 		}
 	}
 	return by, api.OK
 }
 
-// within tells whether all nums are from -limit to limit.
-func within(limit int64, nums ...int64) bool {
+// Within tells whether all nums are from -limit to limit.
+func Within(limit int64, nums ...int64) bool {
 	for _, n := range nums {
 		if n < -limit || n > limit {
 			return false
