@@ -206,8 +206,13 @@ func TestC1ColumnsAreVariablesAndBehindThemRows(t *testing.T) {
 	has := [][]int64{{1, -2}, {7, 3}, {4, 8}, {1, 0}, {0, 1}}
 	value := []int64{3, 2, -5, 0, 0}
 	for j := range has {
-		if got := column(p, j); !slices.Equal(got, has[j]) || worth(p, j) != value[j] {
+		if got := Column(p, j); !slices.Equal(got, has[j]) || worth(p, j) != value[j] {
 			t.Error(j, got, worth(p, j))
+		}
+	}
+	for _, j := range []int{-1, 5, 6, math.MinInt, math.MaxInt} {
+		if got := Column(p, j); !slices.Equal(got, []int64{0, 0}) {
+			t.Error("no such column", j, got)
 		}
 	}
 	// One row alone is carried by any one column: X is Most over what it has, Y its worth over that.

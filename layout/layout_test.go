@@ -317,6 +317,20 @@ func TestB2SmallPrograms(t *testing.T) {
 	}
 }
 
+func TestB1MostsAndBelow(t *testing.T) {
+	p := prog([]int64{3, 2}, []int64{1, 1, 4}, []int64{1, 3, -6})
+	got := Mosts(p)
+	if !slices.Equal(got, []int64{4, -6}) || len(Mosts(api.Prog{})) != 0 {
+		t.Error(got)
+	}
+	if got[0] = 99; p.Rows[0].Most != 4 || Mosts(p)[0] != 4 {
+		t.Error("shared:", p)
+	}
+	if Below(0) || Below(0, 0, 1, math.MaxInt64) || !Below(0, 1, -1) || !Below(math.MaxInt64, 0) || Below(math.MinInt64, math.MinInt64) {
+		t.Error("Below")
+	}
+}
+
 func TestB2ReadsNothingBehindAndChangesNothing(t *testing.T) {
 	costs, of, nums := []int64{3, 2, 999}, []int64{1, 1, 999}, []int64{1, 1, 999}
 	rows := []api.Row{{Of: of[:2], Most: 4}, {Of: nil, Most: 999}}
