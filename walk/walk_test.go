@@ -421,6 +421,34 @@ func TestE1E2FirstThatApplies(t *testing.T) {
 	checkWrong(t, prog([]int64{1}, []int64{1, 5}, []int64{0, -1}), []int{0, 2}, api.ErrRange)
 }
 
+// TestFallsAndComesIn has what other packages ask of a corner, also where there is none.
+func TestFallsAndComesIn(t *testing.T) {
+	p := prog([]int64{3, 2}, []int64{1, 1, 4}, []int64{1, 3, 6})
+	for in, want := range []string{"{[1 0 0 0] 1}", "{[0 1 0 0] 1}", "{[3 -1 0 0] 2}", "{[-1 1 0 0] 2}"} {
+		if got := Falls(p, []int{0, 1}, in); fmt.Sprint(got) != want {
+			t.Error(in, got, want)
+		}
+	}
+	for _, at := range [][]int{nil, {0}, {1, 0}, {0, 4}, {-1, math.MaxInt}} {
+		if got := Falls(p, at, 0); len(got.Nums) != 0 || got.Den != 0 {
+			t.Error(at, got)
+		}
+	}
+	for _, in := range []int{-1, 4, math.MinInt, math.MaxInt} {
+		if got := Falls(p, []int{0, 1}, in); fmt.Sprint(got) != "{[0 0 0 0] 1}" {
+			t.Error(in, got)
+		}
+	}
+	for want, gains := range [][]int64{{1, 0, 1}, {0, 2, 1}, {-1, 0, 1}} {
+		if got := ComesIn(api.Corner{Gain: api.Point{Nums: gains, Den: 1}}); got != want {
+			t.Error(gains, got)
+		}
+	}
+	if ComesIn(api.Corner{}) != -1 || ComesIn(api.Corner{Gain: api.Point{Nums: []int64{0, -1}, Den: 1}}) != -1 {
+		t.Error("comes in where nothing is won")
+	}
+}
+
 // longWalk answers a program with a walk of eleven corners, and these.
 func longWalk() (api.Prog, [][]int) {
 	p := prog([]int64{-5, 19, 22, 30}, []int64{-1, 4, 0, 3, 6}, []int64{-1, -3, 1, -4, 12}, []int64{2, 3, 1, 3, 7}, []int64{-1, 3, -3, 2, 4})
