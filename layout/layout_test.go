@@ -331,6 +331,27 @@ func TestB1MostsAndBelow(t *testing.T) {
 	}
 }
 
+func TestB1Asking(t *testing.T) {
+	p := prog([]int64{3, 2}, []int64{1, 1, 4}, []int64{1, 3, 6})
+	before := fmt.Sprint(p)
+	for _, c := range []struct {
+		mosts []int64
+		want  api.Prog
+	}{
+		{[]int64{-7, 8}, prog([]int64{3, 2}, []int64{1, 1, -7}, []int64{1, 3, 8})},
+		{[]int64{5}, prog([]int64{3, 2}, []int64{1, 1, 5}, []int64{1, 3, 0})},
+		{nil, prog([]int64{3, 2}, []int64{1, 1, 0}, []int64{1, 3, 0})},
+		{[]int64{1, 2, 3}, prog([]int64{3, 2}, []int64{1, 1, 1}, []int64{1, 3, 2})},
+	} {
+		if got := Asking(p, c.mosts); fmt.Sprint(got) != fmt.Sprint(c.want) {
+			t.Error(c.mosts, got)
+		}
+		if fmt.Sprint(p) != before {
+			t.Error("changed:", p)
+		}
+	}
+}
+
 func TestB2ReadsNothingBehindAndChangesNothing(t *testing.T) {
 	costs, of, nums := []int64{3, 2, 999}, []int64{1, 1, 999}, []int64{1, 1, 999}
 	rows := []api.Row{{Of: of[:2], Most: 4}, {Of: nil, Most: 999}}
