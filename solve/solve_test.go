@@ -386,7 +386,7 @@ func TestF1Corners(t *testing.T) {
 	next := numbers(5)
 	p := mixed(next, 4, 4, 9, 12, 12)
 	seen := map[string]int{}
-	for at, c := range corners(p) {
+	for at, c := range Corners(p) {
 		if len(seen) == 0 && !slices.Equal(at, []int{4, 5, 6, 7}) {
 			t.Error("not the rows first", at)
 		}
@@ -399,13 +399,18 @@ func TestF1Corners(t *testing.T) {
 		t.Error(len(seen), seen)
 	}
 	many := 0
-	for range corners(p) {
+	for range Corners(p) {
 		if many++; many == 3 {
 			break
 		}
 	}
 	if many != 3 {
 		t.Error(many)
+	}
+	for _, none := range []api.Prog{{}, wide(40, 40, 1, 1, 1), wide(1, 1, 401, 1, 1)} {
+		for at := range Corners(none) {
+			t.Error(none, at)
+		}
 	}
 }
 
